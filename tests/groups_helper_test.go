@@ -2,6 +2,7 @@ package tests
 
 import (
 	"math"
+	"slices"
 	"testing"
 
 	"loop.example/disclosurecontrol/impl"
@@ -89,6 +90,17 @@ func (g grouping) ownSizes() []int {
 	return out
 }
 
+// byHand returns a grouping that is small enough to be counted by hand: by the ladder, the area 3 joins 1 and then both join 0.
+func byHand() grouping {
+	return grouping{[]impl.Person{
+		{Area: 3, Job: 2, Sex: 1, Pay: 10},
+		{Area: 1, Job: 2, Sex: 1, Pay: 20},
+		{Area: 0, Job: 2, Sex: 0, Pay: 30},
+		{Area: 2, Job: 1, Sex: 0, Pay: 40},
+		{Area: 1, Job: 2, Sex: 1, Pay: 20},
+	}, [][]int{{0, 1, 2, 1}, {0, 0, 2, 0}}, finest}
+}
+
 // coarsest returns the recoding with the greatest numbers.
 func coarsest(ladder [][]int) impl.Recode {
 	return impl.Recode{Area: len(ladder), Job: 1, Sex: 1}
@@ -105,6 +117,20 @@ func everyRecoding(ladder [][]int) []impl.Recode {
 		}
 	}
 	return out
+}
+
+// eachSmallRecoding calls a function with each ladder and with all recodings of small numbers, whether they are valid for it or not.
+func eachSmallRecoding(do func(ladder [][]int, r impl.Recode, valid bool)) {
+	for _, ladder := range everyLadder() {
+		for area := -2; area <= impl.StepsMax+2; area++ {
+			for job := -2; job <= 3; job++ {
+				for sex := -2; sex <= 3; sex++ {
+					r := impl.Recode{Area: area, Job: job, Sex: sex}
+					do(ladder, r, slices.Contains(everyRecoding(ladder), r))
+				}
+			}
+		}
+	}
 }
 
 // badRecodings returns recodings of which at least one number is just or far out of its range for a ladder.
@@ -186,5 +212,56 @@ func eachGrouping(do func(g grouping)) {
 				do(grouping{list, ladder, r})
 			}
 		}
+	}
+}
+
+// eachInvalidGrouping calls a function with groupings of which the people, the ladder or the recoding is invalid.
+func eachInvalidGrouping(do func(g grouping)) {
+	one, all := []impl.Person{{Area: 1, Job: 2, Sex: 1, Pay: 3}}, impl.Recode{Area: 1, Job: 1, Sex: 1}
+	for _, list := range invalidPeople() {
+		do(grouping{list, [][]int{{0, 0, 0, 0}}, all})
+	}
+	for _, ladder := range invalidLadders() {
+		do(grouping{one, ladder, all})
+	}
+	for _, ladder := range everyLadder() {
+		for _, bad := range badRecodings(ladder) {
+			do(grouping{one, ladder, bad})
+		}
+	}
+}
+
+// withRoom returns people with persons behind them that are not theirs.
+func withRoom(list []impl.Person) []impl.Person {
+	return joined(list, samePeople(impl.Person{Area: 3, Pay: 77}, 3))[:len(list)]
+}
+
+// expectStays calls functions with people and a ladder that have room behind them, and expects that neither they nor the room change.
+func expectStays(t *testing.T, g grouping, call func(g grouping)) {
+	t.Helper()
+	ladder, whole := roomy(g.ladder)
+	list := withRoom(g.list)
+	room := list[:cap(list)]
+	steps, people := toCapacity(whole), slices.Clone(room)
+	call(grouping{list, ladder, g.r})
+	if !slices.Equal(room, people) || !sameLadder(toCapacity(whole), steps) {
+		t.Fatalf("%v and %v became %v and %v", people, steps, room, toCapacity(whole))
+	}
+}
+
+// expectNewMemory writes into all memory of a result and expects that the people, the room behind them and another result stay.
+func expectNewMemory(t *testing.T, g grouping, result func(g grouping) []impl.Person) {
+	t.Helper()
+	g.list = withRoom(g.list)
+	room := g.list[:cap(g.list)]
+	before := slices.Clone(room)
+	first, second := result(g), result(g)
+	want := slices.Clone(second)
+	whole := first[:cap(first)]
+	for k := range whole {
+		whole[k] = impl.Person{Area: -7, Job: -7, Sex: -7, Pay: -7}
+	}
+	if !slices.Equal(room, before) || !slices.Equal(second, want) {
+		t.Fatalf("a result of %v shares its memory", g)
 	}
 }

@@ -55,18 +55,11 @@ func TestPromise29RecodeValid(t *testing.T) {
 
 // TestRecodeValidOfEveryNumber tells all valid recodings from those with other small numbers.
 func TestRecodeValidOfEveryNumber(t *testing.T) {
-	for _, ladder := range everyLadder() {
-		for area := -2; area <= impl.StepsMax+2; area++ {
-			for job := -2; job <= 3; job++ {
-				for sex := -2; sex <= 3; sex++ {
-					r := impl.Recode{Area: area, Job: job, Sex: sex}
-					if want := slices.Contains(everyRecoding(ladder), r); impl.RecodeValid(ladder, r) != want {
-						t.Errorf("RecodeValid of %v and %v is %v", ladder, r, !want)
-					}
-				}
-			}
+	eachSmallRecoding(func(ladder [][]int, r impl.Recode, valid bool) {
+		if got := impl.RecodeValid(ladder, r); got != valid {
+			t.Errorf("RecodeValid of %v and %v is %v", ladder, r, got)
 		}
-	}
+	})
 }
 
 func TestPromise30RecodePeople(t *testing.T) {
@@ -380,14 +373,7 @@ func TestGroupsCounted(t *testing.T) {
 }
 
 func TestGroupsByHand(t *testing.T) {
-	ladder := [][]int{{0, 1, 2, 1}, {0, 0, 2, 0}}
-	list := []impl.Person{
-		{Area: 3, Job: 2, Sex: 1, Pay: 10},
-		{Area: 1, Job: 2, Sex: 1, Pay: 20},
-		{Area: 0, Job: 2, Sex: 0, Pay: 30},
-		{Area: 2, Job: 1, Sex: 0, Pay: 40},
-		{Area: 1, Job: 2, Sex: 1, Pay: 20},
-	}
+	hand := byHand()
 	for _, c := range []struct {
 		r                      impl.Recode
 		sizes                  []int
@@ -401,14 +387,14 @@ func TestGroupsByHand(t *testing.T) {
 		{impl.Recode{Area: 2, Sex: 1}, []int{4, 4, 4, 1, 4}, 1, 2, 1},
 		{impl.Recode{Area: 2, Job: 1, Sex: 1}, []int{4, 4, 4, 1, 4}, 1, 2, 1},
 	} {
-		g := grouping{list, ladder, c.r}
+		g := hand.by(c.r)
 		if !slices.Equal(g.sizes(), c.sizes) || g.least() != c.least || g.groups() != c.groups || g.uniques() != c.uniques {
 			t.Errorf("%v: %v, %d, %d, %d", c.r, g.sizes(), g.least(), g.groups(), g.uniques())
 		}
 	}
-	recoded := grouping{list, ladder, impl.Recode{Area: 1, Job: 1}}.recoded(t)
+	recoded := hand.by(impl.Recode{Area: 1, Job: 1}).recoded(t)
 	if want := (impl.Person{Area: 1, Job: 0, Sex: 1, Pay: 10}); recoded[0] != want {
-		t.Errorf("RecodePeople makes %v of %v", recoded[0], list[0])
+		t.Errorf("RecodePeople makes %v of %v", recoded[0], hand.list[0])
 	}
 }
 
@@ -537,51 +523,17 @@ func (g grouping) callAll() {
 	}
 }
 
-// expectStays calls all functions with people and a ladder that have room behind them, and expects that neither they nor the room change.
-func expectStays(t *testing.T, g grouping) {
-	t.Helper()
-	ladder, whole := roomy(g.ladder)
-	room := joined(g.list, samePeople(impl.Person{Area: 3, Pay: 77}, 3))
-	steps, people := toCapacity(whole), slices.Clone(room)
-	grouping{room[:len(g.list)], ladder, g.r}.callAll()
-	if !slices.Equal(room, people) || !sameLadder(toCapacity(whole), steps) {
-		t.Fatalf("%v and %v became %v and %v", people, steps, room, toCapacity(whole))
-	}
-}
-
 func TestGroupArgumentsStay(t *testing.T) {
 	eachGrouping(func(g grouping) {
-		expectStays(t, g)
+		expectStays(t, g, grouping.callAll)
 	})
-	one := []impl.Person{{Area: 1, Job: 2, Sex: 1, Pay: 3}}
-	for _, list := range invalidPeople() {
-		expectStays(t, grouping{list, [][]int{{0, 0, 0, 0}}, impl.Recode{Area: 1, Job: 1, Sex: 1}})
-	}
-	for _, ladder := range invalidLadders() {
-		expectStays(t, grouping{one, ladder, impl.Recode{Area: 1, Job: 1, Sex: 1}})
-	}
-	for _, ladder := range everyLadder() {
-		for _, bad := range badRecodings(ladder) {
-			expectStays(t, grouping{one, ladder, bad})
-		}
-	}
+	eachInvalidGrouping(func(g grouping) {
+		expectStays(t, g, grouping.callAll)
+	})
 }
 
-// TestRecodePeopleIsNewMemory writes into all memory of a result and looks whether the people, the room behind them or another result change.
 func TestRecodePeopleIsNewMemory(t *testing.T) {
-	mark := impl.Person{Area: -7, Job: -7, Sex: -7, Pay: -7}
 	eachGrouping(func(g grouping) {
-		room := joined(g.list, samePeople(impl.Person{Area: 3, Pay: 77}, 3))
-		before := slices.Clone(room)
-		recoded := g.of(room[:len(g.list)]).recoded(t)
-		again := g.of(room[:len(g.list)]).recoded(t)
-		want := slices.Clone(again)
-		whole := recoded[:cap(recoded)]
-		for k := range whole {
-			whole[k] = mark
-		}
-		if !slices.Equal(room, before) || !slices.Equal(again, want) {
-			t.Fatalf("RecodePeople of %v shares its memory", g)
-		}
+		expectNewMemory(t, g, func(g grouping) []impl.Person { return g.recoded(t) })
 	})
 }
