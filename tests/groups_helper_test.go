@@ -200,9 +200,14 @@ func eachRecoding(do func(ladder [][]int, r impl.Recode)) {
 	}
 }
 
-// eachGrouping calls a function with each ladder and recoding for people drawn by lot, and with each list of people for ladders drawn by lot.
+// eachGrouping calls a function with groupings of people whose groups are of all kinds.
 func eachGrouping(do func(g grouping)) {
-	lists, ladders, l := groupLists(), everyLadder(), &lots{state: 6}
+	eachGroupingOf(groupLists(), &lots{state: 6}, do)
+}
+
+// eachGroupingOf calls a function with each ladder and recoding for people drawn by lot, and with each list of people for ladders drawn by lot.
+func eachGroupingOf(lists [][]impl.Person, l *lots, do func(g grouping)) {
+	ladders := everyLadder()
 	eachRecoding(func(ladder [][]int, r impl.Recode) {
 		do(grouping{lists[l.below(len(lists))], ladder, r})
 	})
