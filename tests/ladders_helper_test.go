@@ -94,11 +94,11 @@ func everyLadder() [][][]int {
 	return out
 }
 
-// copied returns a ladder in new memory.
-func copied(ladder [][]int) [][]int {
-	var out [][]int
-	for _, step := range ladder {
-		out = append(out, slices.Clone(step))
+// copied returns lists, such as those of a ladder, in new memory.
+func copied[T any](lists [][]T) [][]T {
+	var out [][]T
+	for _, list := range lists {
+		out = append(out, slices.Clone(list))
 	}
 	return out
 }
@@ -221,17 +221,17 @@ func roomy(ladder [][]int) (list [][]int, whole [][]int) {
 	return whole[:len(ladder)], whole
 }
 
-// toCapacity returns what is in the memory of a list and of its steps, up to their capacities.
-func toCapacity(list [][]int) [][]int {
-	var out [][]int
-	for _, step := range list[:cap(list)] {
-		out = append(out, slices.Clone(step[:cap(step)]))
+// toCapacity returns what is in the memory of a list of lists and of these, up to their capacities.
+func toCapacity[T any](lists [][]T) [][]T {
+	var out [][]T
+	for _, list := range lists[:cap(lists)] {
+		out = append(out, slices.Clone(list[:cap(list)]))
 	}
 	return out
 }
 
-// fill sets all numbers in the memory of a list, up to its capacity.
-func fill(list []int, v int) {
+// fill sets all that is in the memory of a list, up to its capacity.
+func fill[T any](list []T, v T) {
 	whole := list[:cap(list)]
 	for i := range whole {
 		whole[i] = v
